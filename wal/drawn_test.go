@@ -12,11 +12,12 @@ import (
 	"corbel/wal"
 )
 
-// plainWal is the chapter's log, told plainly: it reads all there is on its disk anew for each call, and remembers nothing but what it must tell without power.
+// plainWal is the chapter's log, told plainly: it remembers the state, which segment is the last one, and that the power failed. All else is asked of the disk, to which others may write.
 type plainWal struct {
 	d       *disk.Disk
 	segment int
 	state   wal.State
+	last    int
 	dead    bool
 }
 
@@ -66,7 +67,7 @@ func plainOpen(d *disk.Disk, segment int) (*plainWal, api.Errno) {
 	if err != api.OK {
 		return nil, err
 	}
-	return &plainWal{d: d, segment: segment, state: s}, api.OK
+	return &plainWal{d: d, segment: segment, state: s, last: max(last, 1)}, api.OK
 }
 
 // may: a call that writes may go on; it remembers ErrPower.
@@ -75,8 +76,7 @@ func (p *plainWal) may(call func(s wal.State, last int) api.Errno) api.Errno {
 		p.dead = true
 		return api.ErrPower
 	}
-	s, last, _, _, _ := plainLoad(p.d)
-	err := call(s, last)
+	err := call(p.state, p.last)
 	p.dead = err == api.ErrPower
 	return err
 }
@@ -108,7 +108,11 @@ func (p *plainWal) save(h api.Hard, l []api.Entry) api.Errno {
 		if all, _ := p.d.Read(segmentName(last)); len(all) <= p.segment || last == 999999999 {
 			return api.OK
 		}
-		return onlyPower(steps(func() api.Errno { return p.d.Create(segmentName(last + 1)) }, p.d.Sync))
+		err := steps(func() api.Errno { return p.d.Create(segmentName(last + 1)) }, p.d.Sync)
+		if err == api.OK {
+			p.last++
+		}
+		return onlyPower(err)
 	})
 }
 
@@ -132,9 +136,9 @@ func (p *plainWal) compact(index, term int) api.Errno {
 		if err := written(p.d, allBytes(records...), last+1); err != api.OK {
 			return err
 		}
-		p.state = s
+		p.state, p.last = s, last+1
 		for _, n := range slices.Backward(plainNumbers(p.d.List())) {
-			if n <= last && p.d.Remove(segmentName(n)) == api.ErrPower {
+			if n != p.last && p.d.Remove(segmentName(n)) == api.ErrPower {
 				return api.ErrPower
 			}
 		}
@@ -149,6 +153,7 @@ type two struct {
 	p       *plainWal
 	a, b    *disk.Disk
 	segment int
+	touched bool // others have written to the segments
 }
 
 // same: they tell the same, and their disks have the same in them, by as many operations.
@@ -165,6 +170,12 @@ func (x *two) same(what string) {
 	}
 	stateIs(x.t, what, x.w.State(), x.p.state)
 	segments(x.t, x.w, plainNumbers(x.b.List())...)
+	if !x.touched && !x.p.dead && x.a.On() {
+		s, last, _, rest, right := plainLoad(x.a)
+		stateIs(x.t, what+": on the disk", s, x.p.state)
+		is(x.t, what+": the last one", last, x.p.last)
+		is(x.t, what+": whole", right && len(rest) == 0, true)
+	}
 }
 
 func contents(d *disk.Disk) string {
@@ -189,7 +200,11 @@ func (x *two) open() {
 	w, s, err := wal.Open(x.a, x.segment)
 	p, want := plainOpen(x.b, x.segment)
 	is(x.t, "Open", err, want)
+	if !x.touched {
+		is(x.t, "corrupt by itself", err == api.ErrCorrupt, false)
+	}
 	x.w, x.p = w, p
+	x.touched = x.touched && (p == nil || x.a.Pending() > 0) // what is in the buffer may still be lost
 	if p != nil {
 		stateIs(x.t, "Open", s, p.state)
 	}
@@ -254,11 +269,57 @@ func (x *two) compact(r *rand.Rand) {
 	x.same("Compact")
 }
 
-// step: one call that is drawn; spoils turn bits, behind which most logs are corrupt.
-func (x *two) step(r *rand.Rand, spoils bool) {
+// spoil: a bit of a file is turned; a log that is open does not see it.
+func (x *two) spoil(r *rand.Rand) {
+	x.t.Helper()
+	names := x.a.List()
+	if len(names) == 0 {
+		return
+	}
+	name, at, bit := names[r.Intn(len(names))], r.Intn(100), r.Intn(8)
+	x.touched = true
+	x.both("Spoil", func(d *disk.Disk) { d.Spoil(name, at, bit) })
+	x.open()
+}
+
+// others: somebody else writes to a segment that is there, or was, or to a file of his own.
+func (x *two) others(r *rand.Rand) {
+	x.t.Helper()
+	last := 1
+	if x.p != nil {
+		last = x.p.last
+	}
+	name := segmentName(last - r.Intn(2)*r.Intn(min(last, 4)))
+	b := [][]byte{make([]byte, r.Intn(200)), allBytes(ofEntry(noop(1+r.Intn(9), 1))), allBytes(ofHard(r.Intn(9), 1, 1)), allBytes(ofBase(r.Intn(9), 1))}[r.Intn(4)]
+	x.touched = true
+	switch r.Intn(6) {
+	case 0, 1:
+		x.both("Append", func(d *disk.Disk) { d.Append(name, b) })
+	case 2:
+		x.both("Create", func(d *disk.Disk) { d.Create(name) })
+	case 3:
+		x.both("Sync", func(d *disk.Disk) { d.Sync() })
+	case 4:
+		x.both("a file", func(d *disk.Disk) {
+			steps(func() api.Errno { return d.Create("a") }, func() api.Errno { return d.Append("a", b) })
+		})
+	case 5:
+		x.both("Remove", func(d *disk.Disk) { d.Remove("a") })
+	}
+}
+
+// anew: what is corrupt stays so; new disks go on.
+func (x *two) anew(blocks int) {
+	x.t.Helper()
+	x.a, x.b, x.touched = disk.New(blocks), disk.New(blocks), false
+	x.open()
+}
+
+// step: one call that is drawn.
+func (x *two) step(r *rand.Rand) {
 	x.t.Helper()
 	n, keep := 1+r.Intn(8), r.Intn(60)-1
-	switch k := r.Intn(100); {
+	switch k := r.Intn(99); {
 	case k < 60:
 		x.save(r)
 	case k < 70:
@@ -269,27 +330,32 @@ func (x *two) step(r *rand.Rand, spoils bool) {
 		x.both("Crash", func(d *disk.Disk) { d.Crash(keep) })
 	case k < 92:
 		x.both("Start", (*disk.Disk).Start)
-	case k < 99:
+	default:
 		x.both("Start", (*disk.Disk).Start)
 		x.open()
-	case spoils && len(x.a.List()) > 0:
-		name := x.a.List()[r.Intn(len(x.a.List()))]
-		at, bit := r.Intn(100), r.Intn(8)
-		x.both("Spoil", func(d *disk.Disk) { d.Spoil(name, at, bit) })
-		x.open() // a log that is open does not see it
 	}
 }
 
-// TestDrawn: drawn calls, on disks that are soon full and on some that are not, with power that fails.
+// TestDrawn: drawn calls, on disks that are soon full and on some that are not, with power that fails; at times with bits that are turned, at times with others who write, too.
 func TestDrawn(t *testing.T) {
-	for seed := range 150 {
+	for seed := range 200 {
 		r := rand.New(rand.NewSource(int64(seed)))
 		blocks := []int{0, 1, 2, 3, 5, 8, 12, 20, 50, 5000}[seed%10]
 		segment := []int{1, 20, 60, 100, 300, 1 << 20}[r.Intn(6)]
-		x := &two{t: t, a: disk.New(blocks), b: disk.New(blocks), segment: segment}
-		x.open()
+		x := &two{t: t, segment: segment}
+		x.anew(blocks)
 		for range 300 {
-			x.step(r, seed%3 == 0)
+			switch mode := seed / 10 % 3; {
+			case mode == 1 && r.Intn(100) == 0:
+				x.spoil(r)
+			case mode == 2 && r.Intn(6) == 0:
+				x.others(r)
+			default:
+				x.step(r)
+			}
+			if x.p == nil && x.touched && r.Intn(10) == 0 {
+				x.anew(blocks)
+			}
 		}
 	}
 }

@@ -11,7 +11,6 @@ type log struct {
 	segment int // with more bytes than these a segment is followed by the next one
 	state   State
 	last    int  // the number of the segment that is written on
-	size    int  // how many bytes that has
 	dead    bool // a call has answered ErrPower
 }
 
@@ -21,45 +20,45 @@ func (l *log) open() api.Errno {
 	if len(numbers) == 0 {
 		return l.begin(1)
 	}
-	whole, err := l.load(numbers)
-	if err != api.OK || whole {
-		return err
-	}
-	return l.mend()
-}
-
-// load: the state of all segments, and whether the last one has nothing but records. What was wrong is forgotten at a segment that begins with a base: such a one holds all that counts, and what is ahead of it was on its way to be removed.
-func (l *log) load(numbers []int) (bool, api.Errno) {
-	right, whole := true, true
+	l.last = numbers[len(numbers)-1]
 	for _, n := range numbers {
-		b, err := l.Read(Name(n))
-		if err != api.OK {
-			return false, err
+		if err := l.load(n); err != api.OK {
+			return err
 		}
-		right = right && whole // the one ahead of this one is not the last
-		l.last, l.size = n, 0
-		for r, end := range records(b) {
-			if l.size == 0 && r.Kind == KindBase {
-				l.state, right = State{}, true
-			}
-			right = right && l.state.fold(r)
-			l.size = end
-		}
-		whole = l.size == len(b)
 	}
-	if !right {
-		return false, api.ErrCorrupt
-	}
-	return whole, api.OK
+	return api.OK
 }
 
-// mend: the last segment has its records alone.
-func (l *log) mend() api.Errno {
-	b, err := l.Read(Name(l.last))
+// load: the state goes on behind a segment. A write is torn in the last one alone, so it is only there that bytes which are no record's are mended.
+func (l *log) load(n int) api.Errno {
+	b, err := l.Read(Name(n))
 	if err != api.OK {
 		return err
 	}
-	return l.replace(l.last, b[:l.size])
+	size, right := l.foldAll(b)
+	torn := size < len(b)
+	if !right || torn && n != l.last {
+		return api.ErrCorrupt
+	}
+	if torn {
+		return l.replace(n, b[:size])
+	}
+	return api.OK
+}
+
+// foldAll: the state goes on behind the records of a segment, which are so many bytes; false, if one's fold is not right. A base at the beginning holds all that counts, but what is ahead of it had to be right, too.
+func (l *log) foldAll(b []byte) (int, bool) {
+	size := 0
+	for r, end := range records(b) {
+		if size == 0 && r.Kind == KindBase {
+			l.state = State{}
+		}
+		if !l.state.fold(r) {
+			return 0, false
+		}
+		size = end
+	}
+	return size, true
 }
 
 // save: the records of entries and, if it is another one, of a hard are sure.
@@ -81,7 +80,6 @@ func (l *log) save(h api.Hard, entries []api.Entry) api.Errno {
 	for _, r := range news {
 		l.state.fold(r)
 	}
-	l.size += len(b)
 	return l.next()
 }
 
@@ -121,11 +119,10 @@ func (l *log) compact(index, term int) api.Errno {
 		return api.ErrArg
 	}
 	state.Entries = append([]api.Entry(nil), state.Entries...) // without the room of those that go
-	b := allOf(state)
-	if err := l.replace(l.last+1, b); err != api.OK {
+	if err := l.replace(l.last+1, allOf(state)); err != api.OK {
 		return err
 	}
-	l.state, l.last, l.size = state, l.last+1, len(b)
+	l.state, l.last = state, l.last+1
 	return l.removeOthers()
 }
 

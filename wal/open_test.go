@@ -115,23 +115,106 @@ func TestOpenAtABaseInside(t *testing.T) {
 	refused(t, onDisk(t, 99, "wal-1", allBytes(ofBase(4, 1)), "wal-2", allBytes(hard, ofBase(3, 1))), 1, api.ErrCorrupt)
 }
 
-// TestOpenAheadOfABase: what is ahead of a segment that begins with one counts for nothing: some of it was removed, or is spoilt.
-func TestOpenAheadOfABase(t *testing.T) {
-	want := wal.State{Index: 7, Term: 2, Entries: noops(7, 2, 1)}
-	base := allBytes(ofBase(7, 2), ofEntry(noop(8, 2)))
-	for _, ahead := range [][]byte{
+// untouched: ErrCorrupt, and the disk is as it was, by no operation.
+func untouched(t *testing.T, files ...any) {
+	t.Helper()
+	d := onDisk(t, 99, files...)
+	ops := d.Ops()
+	refused(t, d, 100, api.ErrCorrupt)
+	is(t, "Ops", d.Ops(), ops)
+	holds(t, d, files...)
+}
+
+// wrongAhead: what makes a log corrupt, wherever it stands ahead of the last segment.
+func wrongAhead() [][]byte {
+	one := allBytes(ofEntry(noop(1, 1)))
+	l := [][]byte{
 		allBytes(ofEntry(noop(5, 1))),
 		allBytes(ofEntry(noop(1, 1)), ofEntry(noop(3, 1))),
+		allBytes(ofHard(1, 1, 1), ofEntry(noop(7, 1))),
 		allBytes(ofBase(9, 1), ofBase(8, 1)),
-		allBytes(ofEntry(noop(1, 1)))[:5],
-		[]byte("text"),
+		allBytes(ofBase(9, 1), ofEntry(noop(9, 1))),
+		allBytes(ofBase(9, 1), ofEntry(noop(11, 1))),
+	}
+	for _, b := range torn() {
+		l = append(l, b, slices.Concat(one, b), slices.Concat(allBytes(ofBase(0, 0)), b))
+	}
+	return l
+}
+
+// TestOpenWrongAheadOfABase: bytes that are no record's, and folds that are not right, ahead of one segment that begins with a Base, of two, between them, and beside what is right or to be mended.
+func TestOpenWrongAheadOfABase(t *testing.T) {
+	base, other := allBytes(ofBase(7, 2), ofEntry(noop(8, 2))), allBytes(ofBase(8, 2), ofHard(2, 1, 8))
+	first, hard, empty := allBytes(ofEntry(noop(1, 1))), allBytes(ofHard(1, 1, 1)), []byte(nil)
+	end := slices.Concat(base, []byte("torn"))
+	for _, wrong := range wrongAhead() {
+		untouched(t, "wal-1", wrong, "wal-2", base)
+		untouched(t, "wal-3", wrong, "wal-9", base)
+		untouched(t, "wal-9", wrong, "wal-10", base)
+		untouched(t, "wal-1", wrong, "wal-2", base, "wal-3", empty)
+		untouched(t, "wal-1", wrong, "wal-2", empty, "wal-3", base)
+		untouched(t, "wal-1", wrong, "wal-2", hard, "wal-3", base)
+		untouched(t, "wal-1", hard, "wal-2", wrong, "wal-3", base)
+		untouched(t, "wal-1", wrong, "wal-2", wrong, "wal-3", base)
+		untouched(t, "wal-1", wrong, "wal-2", end)
+		untouched(t, "wal-1", wrong, "wal-2", base, "wal-3", []byte("torn"))
+		untouched(t, "wal-1", wrong, "wal-2", base, "wal-3", other)
+		untouched(t, "wal-1", wrong, "wal-2", base, "wal-4", other, "wal-5", empty)
+		untouched(t, "wal-1", first, "wal-2", wrong, "wal-3", base, "wal-4", other)
+		untouched(t, "wal-1", base, "wal-2", wrong, "wal-3", other)
+		untouched(t, "wal-1", first, "wal-2", base, "wal-3", wrong, "wal-4", other)
+	}
+}
+
+// TestOpenWrongBehindARemoval: others put back what Compact has removed, and that may be right or not.
+func TestOpenWrongBehindARemoval(t *testing.T) {
+	want := wal.State{Index: 2, Term: 1, Hard: hard(1, 2, 3), Entries: noops(2, 1, 1)}
+	for _, wrong := range wrongAhead() {
+		d := disk.New(99)
+		ok(t, saved(t, d, 100).Compact(2, 1))
+		b, _ := d.Read("wal-2")
+		ok(t, d.Create("wal-1"))
+		opened(t, d, 100, want)
+		ok(t, d.Append("wal-1", wrong))
+		refused(t, d, 100, api.ErrCorrupt)
+		ok(t, d.Sync())
+		refused(t, d, 100, api.ErrCorrupt)
+		holds(t, d, "wal-1", wrong, "wal-2", b)
+		ok(t, d.Create("wal-1"))
+		ok(t, d.Append("wal-1", allBytes(ofEntry(noop(1, 9)), ofHard(9, 9, 9))))
+		opened(t, d, 100, want)
+		ok(t, d.Append("wal-1", wrong[:1]))
+		refused(t, d, 100, api.ErrCorrupt)
+		ok(t, d.Remove("wal-1"))
+		opened(t, d, 100, want)
+	}
+}
+
+// TestOpenRightAheadOfABase: it counts for nothing, be it more or less than what is behind it, one run of segments or two, with gaps between the numbers; nothing is done to it.
+func TestOpenRightAheadOfABase(t *testing.T) {
+	want := wal.State{Index: 7, Term: 2, Entries: noops(7, 2, 1)}
+	base, empty := allBytes(ofBase(7, 2), ofEntry(noop(8, 2))), []byte(nil)
+	for _, ahead := range [][]byte{
+		nil,
+		allBytes(ofHard(5, 5, 5)),
+		allBytes(ofEntry(noop(1, 1)), ofEntry(noop(2, 1)), ofHard(1, 1, 1)),
+		allBytes(ofBase(6, 2), ofEntry(noop(7, 2)), ofEntry(noop(8, 9)), ofEntry(noop(9, 9)), ofHard(9, 9, 9)),
+		allBytes(ofBase(7, 2), ofEntry(noop(8, 2)), ofEntry(noop(9, 2))),
+		allBytes(ofBase(math.MaxInt, math.MaxInt), ofHard(math.MaxInt, 0, 0)),
 	} {
-		d := onDisk(t, 99, "wal-1", ahead, "wal-3", ahead, "wal-4", base)
-		segments(t, opened(t, d, 1, want), 1, 3, 4)
-		d = onDisk(t, 99, "wal-1", allBytes(ofHard(1, 1, 1)), "wal-3", ahead, "wal-4", base, "wal-5", []byte(nil))
-		opened(t, d, 1, want)
-		if _, n := plainScan(ahead); n < len(ahead) {
-			refused(t, onDisk(t, 99, "wal-3", base, "wal-4", ahead, "wal-5", []byte(nil)), 1, api.ErrCorrupt)
+		for _, files := range [][]any{
+			{"wal-1", ahead, "wal-2", base},
+			{"wal-3", ahead, "wal-7", base, "wal-8", empty},
+			{"wal-9", ahead, "wal-10", base},
+			{"wal-1", ahead, "wal-2", empty, "wal-3", base},
+			{"wal-1", ahead, "wal-2", allBytes(ofBase(3, 3), ofHard(3, 3, 3), ofEntry(noop(4, 3))), "wal-3", base},
+			{"wal-1", allBytes(ofBase(8, 8), ofEntry(noop(9, 8))), "wal-2", allBytes(ofEntry(noop(10, 8))), "wal-5", slices.Concat(allBytes(ofBase(0, 0)), ahead), "wal-6", base},
+		} {
+			d := onDisk(t, 99, files...)
+			ops := d.Ops()
+			opened(t, d, 100, want)
+			is(t, "Ops", d.Ops(), ops)
+			holds(t, d, files...)
 		}
 	}
 }

@@ -224,30 +224,29 @@ func plainNumbers(names []string) []int {
 	return l
 }
 
-// plainLoad: the state of a disk's segments, the number of the last one, and its records' bytes and all others; false, if it is corrupt. Segments ahead of the last one that begins with a Base are not even looked at.
+// plainLoad: the state of a disk's segments, the number of the last one, and its records' bytes and all others; false, if it is corrupt. Each run of segments up to the next one that begins with a Base is looked at on its own: all runs must be right, and the last one's state is told.
 func plainLoad(d *disk.Disk) (s wal.State, last int, told, rest []byte, right bool) {
+	right = true
 	numbers := plainNumbers(d.List())
-	contents := make([][]byte, len(numbers))
-	first := 0
+	runs := [][]wal.Record{nil}
 	for i, n := range numbers {
-		contents[i], _ = d.Read("wal-" + strconv.Itoa(n))
-		if l, _ := plainScan(contents[i]); len(l) > 0 && l[0].Kind == 3 {
-			first = i
+		b, _ := d.Read("wal-" + strconv.Itoa(n))
+		l, size := plainScan(b)
+		last, told, rest = n, b[:size], b[size:]
+		right = right && (len(rest) == 0 || i == len(numbers)-1)
+		if len(l) > 0 && l[0].Kind == 3 {
+			runs = append(runs, nil)
+		}
+		runs[len(runs)-1] = append(runs[len(runs)-1], l...)
+	}
+	for _, run := range runs {
+		s = wal.State{}
+		for _, r := range run {
+			next, fits := plainFold(s, r)
+			s, right = next, right && fits
 		}
 	}
-	for i := first; i < len(numbers); i++ {
-		l, size := plainScan(contents[i])
-		last, told, rest = numbers[i], contents[i][:size], contents[i][size:]
-		if len(rest) > 0 && i < len(numbers)-1 {
-			return s, last, told, rest, false
-		}
-		for _, r := range l {
-			if s, right = plainFold(s, r); !right {
-				return s, last, told, rest, false
-			}
-		}
-	}
-	return s, last, told, rest, true
+	return s, last, told, rest, right
 }
 
 func sameState(a, b wal.State) bool {

@@ -51,7 +51,7 @@ func (l *log) begin(n int) api.Errno {
 	if err := l.Sync(); err != api.OK {
 		return err
 	}
-	l.last, l.size = n, 0
+	l.last = n
 	return api.OK
 }
 
@@ -71,10 +71,14 @@ func (l *log) replace(n int, b []byte) api.Errno {
 	return l.Rename(fresh, Name(n))
 }
 
-// next: a segment with too many bytes is followed by an empty one. If there is no room for that, this one is written on.
+// next: a segment with too many bytes is followed by an empty one. If there is no room for that, this one is written on. Others may write to the file, so its bytes are counted where they are.
 func (l *log) next() api.Errno {
-	if l.size <= l.segment || l.last == maxNumber {
+	if l.last == maxNumber {
 		return api.OK
+	}
+	b, err := l.Read(Name(l.last))
+	if err != api.OK || len(b) <= l.segment {
+		return powerAlone(err)
 	}
 	return powerAlone(l.begin(l.last + 1))
 }
